@@ -1,0 +1,88 @@
+// Package shape has the forms of strings and numbers that the rules for all chapters name (Z10, Z11), and the words of kinds of items (P1.2).
+package shape
+
+import (
+	"strconv"
+	"strings"
+	"unicode/utf8"
+
+	"paperchase/api"
+)
+
+const maxDigits = 9
+
+// Key says whether a string is a key.
+func Key(s string) bool {
+	if s == "" || len(s) > api.MaxName || !small(s[0]) {
+		return false
+	}
+	for i := range len(s) {
+		if !small(s[i]) && !digit(s[i]) && s[i] != '-' && s[i] != '_' {
+			return false
+		}
+	}
+	return true
+}
+
+func small(c byte) bool { return 'a' <= c && c <= 'z' }
+
+func digit(c byte) bool { return '0' <= c && c <= '9' }
+
+// Plain says whether a string is plain.
+func Plain(s string) bool {
+	blanks := strings.HasPrefix(s, " ") || strings.HasSuffix(s, " ") || strings.Contains(s, "  ")
+	return !blanks && !strings.Contains(s, "\n") && printed(s)
+}
+
+// Text says whether a string is a text.
+func Text(s string) bool {
+	return (s == "" || strings.HasSuffix(s, "\n")) && printed(s)
+}
+
+// printed says whether a string is UTF-8 without control bytes but line feeds.
+func printed(s string) bool {
+	for i := range len(s) {
+		if s[i] < 32 && s[i] != '\n' || s[i] == 127 {
+			return false
+		}
+	}
+	return utf8.ValidString(s)
+}
+
+// Moment says whether a number is a moment.
+func Moment(at int) bool { return 0 <= at && at < api.End }
+
+// Number reads a number as it is written in strings, with at most 9 digits.
+func Number(s string) (int, bool) {
+	n, err := strconv.Atoi(s)
+	// Atoi also takes a plus sign, zeros in front and -0, which are written otherwise.
+	if err != nil || strconv.Itoa(n) != s || len(strings.TrimPrefix(s, "-")) > maxDigits {
+		return 0, false
+	}
+	return n, true
+}
+
+// KindWord returns the word of a kind of items; empty if there is no such kind.
+func KindWord(kind int) string {
+	switch kind {
+	case api.ItemMail:
+		return "mail"
+	case api.ItemFile:
+		return "file"
+	case api.ItemBox:
+		return "box"
+	case api.ItemNote:
+		return "note"
+	}
+	return ""
+}
+
+// Kind returns the kind of items with a word.
+func Kind(word string) (int, bool) {
+	for _, kind := range []int{api.ItemMail, api.ItemFile, api.ItemBox, api.ItemNote} {
+		if KindWord(kind) == word {
+			return kind, true
+		}
+	}
+	return 0, false
+}
