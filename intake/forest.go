@@ -5,9 +5,10 @@ import (
 	"strings"
 
 	"paperchase/api"
+	"paperchase/tree"
 )
 
-const nowhere = -1
+const nowhere = tree.None
 
 // forest is items in the order of their Ids, with the number of each one's parent: nowhere if it has none, or if this is not among them.
 type forest struct {
@@ -39,20 +40,7 @@ func (f forest) number(id string) int {
 }
 
 // hasCircle says whether some items are each other's parents. All other methods that follow parents need a forest without circles.
-func (f forest) hasCircle() bool {
-	walks := make([]int, len(f.up)) // which walk came by first, counted from 1 on
-	for i := range f.up {
-		at := i
-		for at != nowhere && walks[at] == 0 {
-			walks[at] = i + 1
-			at = f.up[at]
-		}
-		if at != nowhere && walks[at] == i+1 {
-			return true
-		}
-	}
-	return false
-}
+func (f forest) hasCircle() bool { return len(tree.Circles(f.up)) > 0 }
 
 func (f forest) misplaced(i int) bool {
 	if f.up[i] == nowhere {

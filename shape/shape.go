@@ -1,4 +1,4 @@
-// Package shape has the forms of strings and numbers that the rules for all chapters name (Z10, Z11), and the words of kinds of items (P1.2).
+// Package shape has the forms of strings and numbers that several chapters share: those of the rules for all chapters (Z10, Z11), the words of kinds of items (P1.2), addresses (P2.1) and message ids (P2.4).
 package shape
 
 import (
@@ -9,19 +9,17 @@ import (
 	"paperchase/api"
 )
 
-const maxDigits = 9
+const (
+	maxDigits    = 9
+	maxAddress   = 80
+	maxLocal     = 40
+	maxLabel     = 30
+	maxMessageId = 80
+)
 
 // Key says whether a string is a key.
 func Key(s string) bool {
-	if s == "" || len(s) > api.MaxName || !small(s[0]) {
-		return false
-	}
-	for i := range len(s) {
-		if !small(s[i]) && !digit(s[i]) && s[i] != '-' && s[i] != '_' {
-			return false
-		}
-	}
-	return true
+	return madeOf(s, "-_", api.MaxName) && small(s[0])
 }
 
 func small(c byte) bool { return 'a' <= c && c <= 'z' }
@@ -47,6 +45,52 @@ func printed(s string) bool {
 		}
 	}
 	return utf8.ValidString(s)
+}
+
+// Small returns a string with small letters for the capitals A to Z, and nothing else changed.
+func Small(s string) string {
+	b := []byte(s)
+	for i, c := range b {
+		if 'A' <= c && c <= 'Z' {
+			b[i] = c - 'A' + 'a'
+		}
+	}
+	return string(b)
+}
+
+// Address says whether a string is an address of mail.
+func Address(s string) bool {
+	local, domain, _ := strings.Cut(s, "@")
+	labels := strings.Split(domain, ".")
+	if len(s) > maxAddress || len(labels) < 2 || !madeOf(local, ".-_+", maxLocal) {
+		return false
+	}
+	for _, label := range labels {
+		if !madeOf(label, "-", maxLabel) {
+			return false
+		}
+	}
+	return true
+}
+
+// madeOf says whether a string has at least one byte and at most some, all of them small letters, digits or signs.
+func madeOf(s, signs string, most int) bool {
+	for i := range len(s) {
+		if !small(s[i]) && !digit(s[i]) && strings.IndexByte(signs, s[i]) < 0 {
+			return false
+		}
+	}
+	return s != "" && len(s) <= most
+}
+
+// MessageId says whether a string is the id of a letter.
+func MessageId(s string) bool {
+	for i := range len(s) {
+		if s[i] < 33 || s[i] > 126 || s[i] == '<' || s[i] == '>' {
+			return false
+		}
+	}
+	return s != "" && len(s) <= maxMessageId
 }
 
 // Moment says whether a number is a moment.

@@ -85,3 +85,41 @@ func TestKinds(t *testing.T) {
 		}
 	}
 }
+
+func TestSmall(t *testing.T) {
+	for s, want := range map[string]string{"": "", "AZaz09@[`{": "azaz09@[`{", "Äé\u212a": "Äé\u212a", "X\xffY\n": "x\xffy\n"} {
+		if Small(s) != want {
+			t.Errorf("%q: %q", s, Small(s))
+		}
+	}
+}
+
+func TestAddress(t *testing.T) {
+	long := strings.Repeat("a", 40) + "@" + strings.Repeat("b", 30) + "." + strings.Repeat("c", 8)
+	for _, s := range []string{"a@b.de", "a.b-c_d+9@b-9.c.de", ".@-.-", "z@a." + strings.Repeat("z", 30), long} {
+		if !Address(s) {
+			t.Errorf("%q is an address", s)
+		}
+	}
+	for _, s := range []string{
+		"", "@", "a", "a@", "@b.de", "a@b", "a@.de", "a@b.", "a@b..de", "a@b@c.de", "a@b.de@", "A@b.de", "a@B.de", "a b@c.de", "a@b_c.de", "a@b+c.de", "ä@b.de", "a@b.dé", "a!@b.de", "a@b.de\n", "<a@b.de>",
+		long + "c", "a" + long[1:40] + "a" + "@b.de", "a@" + strings.Repeat("b", 31) + ".de", "a@b." + strings.Repeat("z", 31),
+	} {
+		if Address(s) {
+			t.Errorf("%q is no address", s)
+		}
+	}
+}
+
+func TestMessageId(t *testing.T) {
+	for _, s := range []string{"!", "~", "a@b.de", "A=?;:\"'", strings.Repeat("i", 80)} {
+		if !MessageId(s) {
+			t.Errorf("%q is a message id", s)
+		}
+	}
+	for _, s := range []string{"", " ", "a b", "a\n", "<", ">", "<a>", "\x7f", "\x00", "é", "\xff", strings.Repeat("i", 81)} {
+		if MessageId(s) {
+			t.Errorf("%q is no message id", s)
+		}
+	}
+}
