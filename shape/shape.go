@@ -1,4 +1,4 @@
-// Package shape has the forms of strings and numbers that several chapters share: those of the rules for all chapters (Z10, Z11), the words of kinds of items (P1.2), addresses (P2.1) and message ids (P2.4).
+// Package shape has the forms of strings and numbers that several chapters share: those of the rules for all chapters (Z10, Z11), the words of kinds of items (P1.2), addresses (P2.1), message ids (P2.4) and the bytes of words (P3.1).
 package shape
 
 import (
@@ -25,6 +25,11 @@ func Key(s string) bool {
 func small(c byte) bool { return 'a' <= c && c <= 'z' }
 
 func digit(c byte) bool { return '0' <= c && c <= '9' }
+
+// WordByte says whether words consist of such bytes.
+func WordByte(c byte) bool {
+	return small(c) || 'A' <= c && c <= 'Z' || digit(c) || c >= utf8.RuneSelf
+}
 
 // Plain says whether a string is plain.
 func Plain(s string) bool {

@@ -94,6 +94,15 @@ func TestSmall(t *testing.T) {
 	}
 }
 
+func TestWordByte(t *testing.T) {
+	for c := range 256 {
+		want := c >= 128 || strings.IndexByte("0123456789ABCDEFGHIJKLMNOPQRSTUVWXYZabcdefghijklmnopqrstuvwxyz", byte(c)) >= 0
+		if WordByte(byte(c)) != want {
+			t.Errorf("%d: not %v", c, want)
+		}
+	}
+}
+
 func TestAddress(t *testing.T) {
 	long := strings.Repeat("a", 40) + "@" + strings.Repeat("b", 30) + "." + strings.Repeat("c", 8)
 	for _, s := range []string{"a@b.de", "a.b-c_d+9@b-9.c.de", ".@-.-", "z@a." + strings.Repeat("z", 30), long} {

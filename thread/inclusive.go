@@ -4,25 +4,8 @@ import (
 	"slices"
 
 	"paperchase/api"
+	"paperchase/sets"
 )
-
-// numberer gives numbers to paragraphs, equal ones to equal paragraphs.
-type numberer map[string]int
-
-// numbers returns those of the paragraphs of a body, rising.
-func (n numberer) numbers(body string) []int {
-	var l []int
-	for _, paragraph := range paragraphsOf(body) {
-		number, ok := n[paragraph]
-		if !ok {
-			number = len(n)
-			n[paragraph] = number
-		}
-		l = append(l, number)
-	}
-	slices.Sort(l)
-	return l
-}
 
 // among says whether all of some numbers are among others; both lists rise.
 func among(some, others []int) bool {
@@ -45,9 +28,9 @@ func Covers(a, b api.Mail) (bool, api.Errno) {
 			return false, e
 		}
 	}
-	n := numberer{}
-	own := n.numbers(a.Body)
-	return among(n.numbers(b.Body), own), api.OK
+	n := sets.Numberer{}
+	own := n.Numbers(paragraphsOf(a.Body))
+	return among(n.Numbers(paragraphsOf(b.Body)), own), api.OK
 }
 
 // Inclusive returns the letters that are needed.
@@ -56,15 +39,15 @@ func Inclusive(l []api.Mail, within int) ([]string, api.Errno) {
 	if e != api.OK {
 		return nil, e
 	}
-	n := numberer{}
+	n := sets.Numberer{}
 	var ids []string
 	for _, group := range groups {
-		var sets [][]int
+		var said [][]int
 		for _, i := range group {
-			sets = append(sets, n.numbers(l[i].Body))
+			said = append(said, n.Numbers(paragraphsOf(l[i].Body)))
 		}
 		for place, i := range group {
-			if needed(sets, place) {
+			if needed(said, place) {
 				ids = append(ids, l[i].Id)
 			}
 		}
@@ -73,10 +56,10 @@ func Inclusive(l []api.Mail, within int) ([]string, api.Errno) {
 	return ids, api.OK
 }
 
-// needed says whether the letter at a place of a conversation is inclusive; sets are the paragraphs of its letters, in order.
-func needed(sets [][]int, place int) bool {
-	own := sets[place]
-	for i, other := range sets {
+// needed says whether the letter at a place of a conversation is inclusive; said are the paragraphs of its letters, in order.
+func needed(said [][]int, place int) bool {
+	own := said[place]
+	for i, other := range said {
 		// One that has as many paragraphs and covers it has the same ones.
 		prior := len(other) > len(own) || len(other) == len(own) && i < place
 		if prior && among(own, other) {
