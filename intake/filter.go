@@ -1,9 +1,8 @@
 package intake
 
 import (
-	"slices"
-
 	"paperchase/api"
+	"paperchase/sets"
 	"paperchase/shape"
 )
 
@@ -12,57 +11,39 @@ const stays = 0
 
 // CheckFilter validates a filter.
 func CheckFilter(f api.Filter) api.Errno {
-	if e := rising(f.Kinds, func(kind int) bool { return shape.KindWord(kind) != "" }, api.ErrKind); e != api.OK {
+	if e := sets.Rising(f.Kinds, shape.IsKind, api.ErrKind); e != api.OK {
 		return e
 	}
 	if len(f.Custodians) > api.MaxPeople {
 		return api.ErrLarge
 	}
-	if e := rising(f.Custodians, shape.Key, api.ErrName); e != api.OK {
+	if e := sets.Rising(f.Custodians, shape.Key, api.ErrName); e != api.OK {
 		return e
 	}
-	if f.Window.From < 0 || f.Window.From > f.Window.To || f.Window.To > api.End {
+	if !shape.Window(f.Window) {
 		return api.ErrArg
 	}
 	if len(f.Known) > api.MaxSums {
 		return api.ErrLarge
 	}
-	return rising(f.Known, isDigest, api.ErrForm)
-}
-
-// rising checks that each value is right, with an error of its own, and greater than the one before.
-func rising[T int | string](l []T, right func(T) bool, wrong api.Errno) api.Errno {
-	for i, x := range l {
-		if !right(x) {
-			return wrong
-		}
-		if i > 0 && x <= l[i-1] {
-			return api.ErrOrder
-		}
-	}
-	return api.OK
+	return sets.Rising(f.Known, isDigest, api.ErrForm)
 }
 
 // why returns the first reason why a filter leaves an item out.
 func why(x api.Item, f api.Filter) int {
 	switch {
-	case len(f.Kinds) > 0 && !slices.Contains(f.Kinds, x.Kind):
+	case !sets.Admits(f.Kinds, x.Kind):
 		return api.LeftKind
-	case len(f.Custodians) > 0 && !among(f.Custodians, x.Custodian):
+	case !sets.Admits(f.Custodians, x.Custodian):
 		return api.LeftCustodian
 	case x.At < f.Window.From:
 		return api.LeftEarly
 	case x.At >= f.Window.To:
 		return api.LeftLate
-	case len(f.Known) > 0 && among(f.Known, sumOf(x)):
+	case len(f.Known) > 0 && sets.Has(f.Known, sumOf(x)):
 		return api.LeftKnown
 	}
 	return stays
-}
-
-func among(sorted []string, s string) bool {
-	_, ok := slices.BinarySearch(sorted, s)
-	return ok
 }
 
 // Keep returns what a filter keeps, and what it leaves out.

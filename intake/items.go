@@ -11,7 +11,7 @@ func CheckItem(x api.Item) api.Errno {
 	switch {
 	case !shape.Key(x.Id) || !shape.Key(x.Custodian):
 		return api.ErrName
-	case shape.KindWord(x.Kind) == "":
+	case !shape.IsKind(x.Kind):
 		return api.ErrKind
 	case len(x.Name) > api.MaxTitle:
 		return api.ErrLarge

@@ -100,7 +100,7 @@ func checkOne(q api.Query, byWords bool) api.Errno {
 		return api.ErrName
 	case !isInRange(q):
 		return api.ErrArg
-	case q.Kind == api.FindKind && shape.KindWord(q.Number) == "":
+	case q.Kind == api.FindKind && !shape.IsKind(q.Number):
 		return api.ErrKind
 	}
 	return api.OK

@@ -4,7 +4,31 @@ package sets
 import (
 	"cmp"
 	"slices"
+
+	"paperchase/api"
 )
+
+// Rising checks that each element is right, with an error of its own, and greater than the one before.
+func Rising[T cmp.Ordered](l []T, right func(T) bool, wrong api.Errno) api.Errno {
+	for i, x := range l {
+		if !right(x) {
+			return wrong
+		}
+		if i > 0 && x <= l[i-1] {
+			return api.ErrOrder
+		}
+	}
+	return api.OK
+}
+
+// Has says whether an element is in a list that rises.
+func Has[T cmp.Ordered](l []T, x T) bool {
+	_, ok := slices.BinarySearch(l, x)
+	return ok
+}
+
+// Admits says whether an element is in a list that rises, where none at all stand for every one.
+func Admits[T cmp.Ordered](l []T, x T) bool { return len(l) == 0 || Has(l, x) }
 
 // Numberer gives numbers to strings, equal ones to equal strings.
 type Numberer map[string]int

@@ -5,6 +5,8 @@ import (
 	"slices"
 	"strings"
 	"testing"
+
+	"paperchase/api"
 )
 
 func TestNumbers(t *testing.T) {
@@ -71,4 +73,47 @@ func someNumbers(r *rand.Rand) []int {
 		}
 	}
 	return l
+}
+
+func TestRising(t *testing.T) {
+	right := func(s string) bool { return s != "x" }
+	for _, c := range []struct {
+		words string
+		want  api.Errno
+	}{
+		{"", api.OK},
+		{"a", api.OK},
+		{"a b c", api.OK},
+		{"a a", api.ErrOrder},
+		{"b a", api.ErrOrder},
+		{"a c b", api.ErrOrder},
+		{"x", api.ErrKind},
+		{"z x", api.ErrKind},
+		{"b a x", api.ErrOrder},
+		{"a x b a", api.ErrKind},
+	} {
+		if got := Rising(strings.Fields(c.words), right, api.ErrKind); got != c.want {
+			t.Errorf("%q: got %d, want %d", c.words, got, c.want)
+		}
+	}
+}
+
+func TestHas(t *testing.T) {
+	for _, c := range []struct {
+		words       string
+		has, admits bool
+	}{
+		{"", false, true},
+		{"b", true, true},
+		{"a b c", true, true},
+		{"a b", true, true},
+		{"a", false, false},
+		{"a c", false, false},
+		{"c d", false, false},
+	} {
+		l := strings.Fields(c.words)
+		if has, admits := Has(l, "b"), Admits(l, "b"); has != c.has || admits != c.admits {
+			t.Errorf("%q: got %v and %v", c.words, has, admits)
+		}
+	}
 }

@@ -101,6 +101,9 @@ func MessageId(s string) bool {
 // Moment says whether a number is a moment.
 func Moment(at int) bool { return 0 <= at && at < api.End }
 
+// Window says whether a window is within all moments, and does not end before it begins.
+func Window(w api.Window) bool { return 0 <= w.From && w.From <= w.To && w.To <= api.End }
+
 // Number reads a number as it is written in strings, with at most 9 digits.
 func Number(s string) (int, bool) {
 	n, err := strconv.Atoi(s)
@@ -125,6 +128,9 @@ func KindWord(kind int) string {
 	}
 	return ""
 }
+
+// IsKind says whether there is such a kind of items.
+func IsKind(kind int) bool { return KindWord(kind) != "" }
 
 // Kind returns the kind of items with a word.
 func Kind(word string) (int, bool) {

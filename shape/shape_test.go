@@ -54,6 +54,17 @@ func TestMoment(t *testing.T) {
 	}
 }
 
+func TestWindow(t *testing.T) {
+	for w, want := range map[api.Window]bool{
+		{}: true, {From: 5, To: 5}: true, {To: api.End}: true, {From: api.End, To: api.End}: true, {From: 3, To: 9}: true,
+		{From: -1}: false, {From: 6, To: 5}: false, {To: api.End + 1}: false, {From: api.End + 1, To: api.End + 1}: false, {From: -2, To: -1}: false,
+	} {
+		if Window(w) != want {
+			t.Errorf("%v: not %v", w, want)
+		}
+	}
+}
+
 func TestNumber(t *testing.T) {
 	for s, want := range map[string]int{"0": 0, "7": 7, "-7": -7, "10": 10, "999999999": 999_999_999, "-999999999": -999_999_999} {
 		if n, ok := Number(s); n != want || !ok {
@@ -74,6 +85,11 @@ func TestKinds(t *testing.T) {
 		}
 		if n, ok := Kind(word); n != kind || !ok {
 			t.Errorf("%q: %d, %v", word, n, ok)
+		}
+	}
+	for kind, want := range map[int]bool{-1: false, 0: false, api.ItemMail: true, api.ItemNote: true, 5: false} {
+		if IsKind(kind) != want {
+			t.Errorf("%d: not %v", kind, want)
 		}
 	}
 	if KindWord(0) != "" || KindWord(5) != "" || KindWord(-1) != "" {
