@@ -1,12 +1,12 @@
 package hold
 
 import (
-	"slices"
 	"strconv"
 	"strings"
 
 	"paperchase/api"
 	"paperchase/intake"
+	"paperchase/lines"
 	"paperchase/shape"
 )
 
@@ -25,12 +25,12 @@ func Text(l []api.Hold) (string, api.Errno) {
 	}
 	var b strings.Builder
 	for _, h := range l {
-		writeLine(&b, holdWord, h.Key, strconv.Itoa(h.At), strconv.Itoa(h.Released), strconv.Itoa(h.Window.From), strconv.Itoa(h.Window.To), intake.Quote(h.Query))
+		lines.Write(&b, holdWord, h.Key, strconv.Itoa(h.At), strconv.Itoa(h.Released), strconv.Itoa(h.Window.From), strconv.Itoa(h.Window.To), intake.Quote(h.Query))
 		for _, who := range h.Custodians {
-			writeLine(&b, ofWord, who)
+			lines.Write(&b, ofWord, who)
 		}
 		for _, kind := range h.Kinds {
-			writeLine(&b, kindWord, shape.KindWord(kind))
+			lines.Write(&b, kindWord, shape.KindWord(kind))
 		}
 		if b.Len() > api.MaxText {
 			return "", api.ErrLarge
@@ -39,35 +39,25 @@ func Text(l []api.Hold) (string, api.Errno) {
 	return b.String(), api.OK
 }
 
-func writeLine(b *strings.Builder, words ...string) {
-	b.WriteString(strings.Join(words, " ") + "\n")
-}
-
 // Read returns the holds of a string.
 func Read(text string) ([]api.Hold, int, api.Errno) {
-	if len(text) > api.MaxText {
-		return nil, 0, api.ErrLarge
-	}
 	var l []api.Hold
-	for at, line := range slices.Collect(strings.Lines(text)) {
+	at, e := lines.Read(text, func(words []string) bool {
 		var ok bool
-		if l, ok = readLine(l, line); !ok {
-			return nil, at, api.ErrSyntax
-		}
+		l, ok = readLine(l, words)
+		return ok
+	})
+	if e == api.OK {
+		e = Check(l)
 	}
-	if e := Check(l); e != api.OK {
-		return nil, 0, e
+	if e != api.OK {
+		return nil, at, e
 	}
 	return l, 0, api.OK
 }
 
-// readLine returns holds with what the next line adds; false if there cannot be such a line.
-func readLine(l []api.Hold, line string) ([]api.Hold, bool) {
-	line, ended := strings.CutSuffix(line, "\n")
-	words := strings.Split(line, " ")
-	if !ended || slices.Contains(words, "") {
-		return nil, false
-	}
+// readLine returns holds with what the words of the next line add; false if there cannot be such a line.
+func readLine(l []api.Hold, words []string) ([]api.Hold, bool) {
 	if words[0] == holdWord {
 		h, ok := readHead(words)
 		return append(l, h), ok

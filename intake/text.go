@@ -6,6 +6,7 @@ import (
 	"strings"
 
 	"paperchase/api"
+	"paperchase/lines"
 	"paperchase/shape"
 )
 
@@ -22,7 +23,7 @@ func Text(l []api.Item) (string, api.Errno) {
 	}
 	var b strings.Builder
 	for _, x := range l {
-		b.WriteString(head(x))
+		lines.Write(&b, head(x)...)
 		for line := range strings.Lines(x.Text) {
 			b.WriteString("|" + line)
 		}
@@ -33,14 +34,14 @@ func Text(l []api.Item) (string, api.Errno) {
 	return b.String(), api.OK
 }
 
-func head(x api.Item) string {
+// head returns the words of the line of an item.
+func head(x api.Item) []string {
 	parent := x.Parent
 	if parent == "" {
 		parent = noParent
 	}
-	lines := strings.Count(x.Text, "\n")
-	words := []string{itemWord, x.Id, x.Custodian, shape.KindWord(x.Kind), strconv.Itoa(x.At), parent, Quote(x.Name), strconv.Itoa(lines)}
-	return strings.Join(words, " ") + "\n"
+	many := strings.Count(x.Text, "\n")
+	return []string{itemWord, x.Id, x.Custodian, shape.KindWord(x.Kind), strconv.Itoa(x.At), parent, Quote(x.Name), strconv.Itoa(many)}
 }
 
 // Read returns the items of a string.
@@ -48,14 +49,14 @@ func Read(text string) ([]api.Item, int, api.Errno) {
 	if len(text) > api.MaxText {
 		return nil, 0, api.ErrLarge
 	}
-	lines := slices.Collect(strings.Lines(text))
+	all := slices.Collect(strings.Lines(text))
 	var l []api.Item
-	for at := 0; at < len(lines); {
-		x, many, ok := readHead(lines[at])
+	for at := 0; at < len(all); {
+		x, many, ok := readHead(all[at])
 		if !ok {
 			return nil, at, api.ErrSyntax
 		}
-		body, read := readBody(lines[at+1:], many)
+		body, read := readBody(all[at+1:], many)
 		at += 1 + read
 		if read < many {
 			return nil, at, api.ErrSyntax
@@ -71,15 +72,11 @@ func Read(text string) ([]api.Item, int, api.Errno) {
 
 // readHead reads the line of an item: the item without its Text, and of how many lines this is.
 func readHead(line string) (api.Item, int, bool) {
-	line, ended := strings.CutSuffix(line, "\n")
-	words := strings.Split(line, " ")
-	if !ended || len(words) != headWords || words[0] != itemWord {
+	words, ok := lines.Words(line)
+	if !ok || len(words) != headWords || words[0] != itemWord {
 		return api.Item{}, 0, false
 	}
 	x := api.Item{Id: words[1], Custodian: words[2], Parent: words[5]}
-	if x.Id == "" || x.Custodian == "" || x.Parent == "" {
-		return api.Item{}, 0, false
-	}
 	if x.Parent == noParent {
 		x.Parent = ""
 	}
@@ -95,10 +92,10 @@ func readHead(line string) (api.Item, int, bool) {
 }
 
 // readBody reads lines of a Text, and returns how many of the first ones are right, at most as many as wanted.
-func readBody(lines []string, wanted int) (string, int) {
+func readBody(rest []string, wanted int) (string, int) {
 	var b strings.Builder
 	read := 0
-	for _, line := range lines {
+	for _, line := range rest {
 		if read == wanted || line[0] != '|' || !strings.HasSuffix(line, "\n") {
 			break
 		}

@@ -134,9 +134,14 @@ func IsKind(kind int) bool { return KindWord(kind) != "" }
 
 // Kind returns the kind of items with a word.
 func Kind(word string) (int, bool) {
-	for _, kind := range []int{api.ItemMail, api.ItemFile, api.ItemBox, api.ItemNote} {
-		if KindWord(kind) == word {
-			return kind, true
+	return Named(word, KindWord, api.ItemMail, api.ItemFile, api.ItemBox, api.ItemNote)
+}
+
+// Named returns which of some numbers has a word.
+func Named(word string, wordOf func(n int) string, numbers ...int) (int, bool) {
+	for _, n := range numbers {
+		if wordOf(n) == word {
+			return n, true
 		}
 	}
 	return 0, false

@@ -102,6 +102,20 @@ func TestKinds(t *testing.T) {
 	}
 }
 
+func TestNamed(t *testing.T) {
+	wordOf := func(n int) string { return strings.Repeat("x", n) }
+	for word, want := range map[string]int{"x": 1, "xxx": 3} {
+		if n, ok := Named(word, wordOf, 3, 1); n != want || !ok {
+			t.Errorf("%q: %d, %v", word, n, ok)
+		}
+	}
+	for _, word := range []string{"", "xx", "xxxx", "y"} {
+		if n, ok := Named(word, wordOf, 3, 1); n != 0 || ok {
+			t.Errorf("%q: %d, %v", word, n, ok)
+		}
+	}
+}
+
 func TestSmall(t *testing.T) {
 	for s, want := range map[string]string{"": "", "AZaz09@[`{": "azaz09@[`{", "Äé\u212a": "Äé\u212a", "X\xffY\n": "x\xffy\n"} {
 		if Small(s) != want {
