@@ -65,3 +65,32 @@ func TestRead(t *testing.T) {
 		}
 	}
 }
+
+func TestEach(t *testing.T) {
+	for _, c := range []struct {
+		text, taken string
+		at          int
+		e           api.Errno
+	}{
+		{"", "", 0, api.OK},
+		{"\n", ";", 0, api.OK},
+		{" a  b \n\nc\r\n", " a  b ;;c\r;", 0, api.OK},
+		{"a", "", 0, api.ErrSyntax},
+		{"a\nb\nc", "a;b;", 2, api.ErrSyntax},
+		{"a\nno\nc", "a;", 1, api.ErrSyntax},
+		{strings.Repeat("x", api.MaxText-1) + "\n", strings.Repeat("x", api.MaxText-1) + ";", 0, api.OK},
+		{strings.Repeat("x", api.MaxText) + "\n", "", 0, api.ErrLarge},
+	} {
+		taken := ""
+		at, e := Each(c.text, func(line string) bool {
+			if line == "no" {
+				return false
+			}
+			taken += line + ";"
+			return true
+		})
+		if taken != c.taken || at != c.at || e != c.e {
+			t.Errorf("%.20q: got %.20q, %d, %d", c.text, taken, at, e)
+		}
+	}
+}

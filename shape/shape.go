@@ -1,4 +1,4 @@
-// Package shape has the forms of strings and numbers that several chapters share: those of the rules for all chapters (Z10, Z11), the words of kinds of items (P1.2), addresses (P2.1), message ids (P2.4) and the bytes of words (P3.1).
+// Package shape has the forms of strings and numbers that several chapters share: those of the rules for all chapters (Z10, Z11), the words of kinds of items (P1.2), addresses (P2.1), message ids and bodies (P2.4) and the bytes of words (P3.1).
 package shape
 
 import (
@@ -40,6 +40,17 @@ func Plain(s string) bool {
 // Text says whether a string is a text.
 func Text(s string) bool {
 	return (s == "" || strings.HasSuffix(s, "\n")) && printed(s)
+}
+
+// CheckBody validates a text that is not longer than the Text of an item.
+func CheckBody(s string) api.Errno {
+	if len(s) > api.MaxBody {
+		return api.ErrLarge
+	}
+	if !Text(s) {
+		return api.ErrForm
+	}
+	return api.OK
 }
 
 // printed says whether a string is UTF-8 without control bytes but line feeds.

@@ -46,6 +46,18 @@ func TestText(t *testing.T) {
 	}
 }
 
+func TestCheckBody(t *testing.T) {
+	for s, want := range map[string]api.Errno{
+		"": api.OK, "a\n": api.OK, strings.Repeat("\n", api.MaxBody): api.OK,
+		strings.Repeat("\n", api.MaxBody+1): api.ErrLarge, strings.Repeat("a", api.MaxBody+1): api.ErrLarge,
+		"a": api.ErrForm, "\t\n": api.ErrForm, "\xff\n": api.ErrForm, strings.Repeat("a", api.MaxBody): api.ErrForm,
+	} {
+		if e := CheckBody(s); e != want {
+			t.Errorf("%.20q: %d, want %d", s, e, want)
+		}
+	}
+}
+
 func TestMoment(t *testing.T) {
 	for at, want := range map[int]bool{-1: false, 0: true, api.End - 1: true, api.End: false} {
 		if Moment(at) != want {

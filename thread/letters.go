@@ -29,7 +29,7 @@ func Check(m api.Mail) api.Errno {
 	if len(m.Subject) > maxSubject || !shape.Plain(m.Subject) {
 		return api.ErrForm
 	}
-	return checkBody(m.Body)
+	return shape.CheckBody(m.Body)
 }
 
 func checkReceivers(m api.Mail) api.Errno {
@@ -62,16 +62,6 @@ func checkRefs(m api.Mail) api.Errno {
 		case ref == m.Id:
 			return api.ErrLoop
 		}
-	}
-	return api.OK
-}
-
-func checkBody(body string) api.Errno {
-	if len(body) > api.MaxBody {
-		return api.ErrLarge
-	}
-	if !shape.Text(body) {
-		return api.ErrForm
 	}
 	return api.OK
 }

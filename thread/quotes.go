@@ -17,7 +17,7 @@ type line struct {
 
 // readBody takes a body apart, if it is one.
 func readBody(body string) ([]line, api.Errno) {
-	if e := checkBody(body); e != api.OK {
+	if e := shape.CheckBody(body); e != api.OK {
 		return nil, e
 	}
 	return linesOf(body), api.OK
@@ -110,7 +110,7 @@ func Own(body string) (string, api.Errno) {
 
 // Paragraphs returns the paragraphs of a body.
 func Paragraphs(body string) ([]string, api.Errno) {
-	if e := checkBody(body); e != api.OK {
+	if e := shape.CheckBody(body); e != api.OK {
 		return nil, e
 	}
 	return paragraphsOf(body), api.OK
