@@ -1,4 +1,4 @@
-// Package shape has the forms of strings and numbers that several chapters share: those of the rules for all chapters (Z10, Z11), the words of kinds of items (P1.2), addresses (P2.1), message ids and bodies (P2.4) and the bytes of words (P3.1).
+// Package shape has the forms of strings and numbers that several chapters share: those of the rules for all chapters (Z10, Z11), the words of kinds of items (P1.2), addresses (P2.1), message ids and bodies (P2.4), the bytes of words (P3.1), and the lines of pages and the cells of rows (P8.5, P8.9).
 package shape
 
 import (
@@ -34,12 +34,12 @@ func WordByte(c byte) bool {
 // Plain says whether a string is plain.
 func Plain(s string) bool {
 	blanks := strings.HasPrefix(s, " ") || strings.HasSuffix(s, " ") || strings.Contains(s, "  ")
-	return !blanks && !strings.Contains(s, "\n") && printed(s)
+	return !blanks && Line(s)
 }
 
 // Text says whether a string is a text.
 func Text(s string) bool {
-	return (s == "" || strings.HasSuffix(s, "\n")) && printed(s)
+	return (s == "" || strings.HasSuffix(s, "\n")) && Printed(s)
 }
 
 // CheckBody validates a text that is not longer than the Text of an item.
@@ -53,8 +53,11 @@ func CheckBody(s string) api.Errno {
 	return api.OK
 }
 
-// printed says whether a string is UTF-8 without control bytes but line feeds.
-func printed(s string) bool {
+// Line says whether a string is UTF-8 without control bytes.
+func Line(s string) bool { return !strings.Contains(s, "\n") && Printed(s) }
+
+// Printed says whether a string is UTF-8 without control bytes but line feeds.
+func Printed(s string) bool {
 	for i := range len(s) {
 		if s[i] < 32 && s[i] != '\n' || s[i] == 127 {
 			return false

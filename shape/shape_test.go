@@ -46,6 +46,24 @@ func TestText(t *testing.T) {
 	}
 }
 
+func TestLine(t *testing.T) {
+	for _, s := range []string{"", "a", " a  b ", "Größe", "\u0080", "\U0010ffff", "~"} {
+		if !Line(s) || !Printed(s) {
+			t.Errorf("%q is a line", s)
+		}
+	}
+	for _, s := range []string{"\n", "a\nb", " \n\n"} {
+		if Line(s) || !Printed(s) {
+			t.Errorf("%q is printed, and no line", s)
+		}
+	}
+	for _, s := range []string{"\t", "a\x00", "a\x1f", "\x7f", "\xff", "\xc3", "\xed\xa0\x80", "\xc0\x80", "\xf4\x90\x80\x80"} {
+		if Line(s) || Printed(s) {
+			t.Errorf("%q is not printed", s)
+		}
+	}
+}
+
 func TestCheckBody(t *testing.T) {
 	for s, want := range map[string]api.Errno{
 		"": api.OK, "a\n": api.OK, strings.Repeat("\n", api.MaxBody): api.OK,
