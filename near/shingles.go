@@ -6,6 +6,7 @@ import (
 	"strings"
 
 	"paperchase/api"
+	"paperchase/ratio"
 	"paperchase/sets"
 )
 
@@ -46,7 +47,7 @@ func Resemblance(a, b string, k int) (api.Fraction, api.Errno) {
 // Containment returns how much of a is in b.
 func Containment(a, b string, k int) (api.Fraction, api.Errno) {
 	return measure(a, b, k, func(x, y []string) api.Fraction {
-		return part(sets.Shared(x, y), len(x))
+		return ratio.Part(sets.Shared(x, y), len(x))
 	})
 }
 
@@ -66,5 +67,5 @@ func measure(a, b string, k int, how func(x, y []string) api.Fraction) (api.Frac
 // resemblance returns which part of two sets, which rise, is in both.
 func resemblance[T cmp.Ordered](a, b []T) api.Fraction {
 	both := sets.Shared(a, b)
-	return part(both, len(a)+len(b)-both)
+	return ratio.Part(both, len(a)+len(b)-both)
 }

@@ -6,6 +6,7 @@ import (
 
 	"paperchase/api"
 	"paperchase/intake"
+	"paperchase/ratio"
 )
 
 const maxSketch = 200
@@ -60,7 +61,7 @@ func Estimate(a, b []int, size int) (api.Fraction, api.Errno) {
 			both++
 		}
 	}
-	return part(both, len(least)), api.OK
+	return ratio.Part(both, len(least)), api.OK
 }
 
 func checkSketch(l []int, size int) api.Errno {
