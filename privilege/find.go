@@ -4,6 +4,7 @@ import (
 	"strings"
 
 	"paperchase/api"
+	"paperchase/sets"
 	"paperchase/shape"
 )
 
@@ -34,7 +35,7 @@ func Find(text string, phrases []string) ([]api.Span, api.Errno) {
 			l = append(l, api.Span{From: from, To: to})
 		}
 	}
-	return bounded(together(l))
+	return bounded(sets.Together(l))
 }
 
 // eachPlace calls a function with each place where a phrase begins.

@@ -7,6 +7,7 @@ import (
 	"paperchase/api"
 	"paperchase/near"
 	"paperchase/query"
+	"paperchase/sets"
 	"paperchase/shape"
 )
 
@@ -54,7 +55,7 @@ func Widen(text string, l []api.Span) ([]api.Span, api.Errno) {
 	if e := checkCovered(text, l); e != api.OK {
 		return nil, e
 	}
-	return together(wordsWhole(text, l)), api.OK
+	return sets.Together(wordsWhole(text, l)), api.OK
 }
 
 // Redact returns the string with what is covered as signs.
@@ -80,7 +81,7 @@ func Seen(text string, l []api.Span) ([]string, api.Errno) {
 	}
 	var words []string
 	from := 0
-	for _, s := range together(pointsWhole(text, l)) {
+	for _, s := range sets.Together(pointsWhole(text, l)) {
 		words = append(words, near.Words(text[from:s.From])...)
 		from = s.To
 	}

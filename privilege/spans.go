@@ -4,6 +4,7 @@ import (
 	"slices"
 
 	"paperchase/api"
+	"paperchase/sets"
 )
 
 // CheckSpans validates spans.
@@ -43,20 +44,6 @@ func bounded(l []api.Span) ([]api.Span, api.Errno) {
 	return l, api.OK
 }
 
-// together makes one of spans that touch or overlap; they are in the order of From.
-func together(l []api.Span) []api.Span {
-	var all []api.Span
-	for _, s := range l {
-		last := len(all) - 1
-		if last >= 0 && s.From <= all[last].To {
-			all[last].To = max(all[last].To, s.To)
-		} else {
-			all = append(all, s)
-		}
-	}
-	return all
-}
-
 // Union returns the bytes of both.
 func Union(a, b []api.Span, size int) ([]api.Span, api.Errno) {
 	if e := checkBoth(a, b, size); e != api.OK {
@@ -64,7 +51,7 @@ func Union(a, b []api.Span, size int) ([]api.Span, api.Errno) {
 	}
 	both := slices.Concat(a, b)
 	slices.SortFunc(both, func(x, y api.Span) int { return x.From - y.From })
-	return bounded(together(both))
+	return bounded(sets.Together(both))
 }
 
 // Without returns the bytes of a that are none of b.
